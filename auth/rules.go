@@ -6,6 +6,7 @@ import (
 	"agora/api"
 	"agora/ident"
 	"agora/power"
+	"agora/values"
 )
 
 // Memberships, and the rule, that the rules know.
@@ -66,7 +67,7 @@ func ask(e api.Event, state []api.Known) {
 // creates tells whether a create event begins a room.
 func creates(e api.Event) bool {
 	return e.IsState && e.Key == "" && len(e.Prev) == 0 && len(e.Auth) == 0 &&
-		ident.Home(e.Room) == ident.Home(e.Sender) && text(e.Content, keyCreator) == e.Sender
+		ident.Home(e.Room) == ident.Home(e.Sender) && values.TextAt(e.Content, keyCreator) == e.Sender
 }
 
 // hearing is an event, and the state by which it is heard.
@@ -117,7 +118,7 @@ func (h *hearing) own() bool { return h.event.Key == h.event.Sender }
 func (h *hearing) member() {
 	_, _, user := ident.User(h.event.Key)
 	noIf(!h.event.IsState || !user)
-	switch text(h.event.Content, keyMembership) {
+	switch values.TextAt(h.event.Content, keyMembership) {
 	case join:
 		h.joins()
 	case invite:

@@ -1,9 +1,8 @@
 package auth
 
 import (
-	"slices"
-
 	"agora/api"
+	"agora/values"
 )
 
 // The keys of contents that the rules ask for.
@@ -12,15 +11,6 @@ const (
 	keyMembership = "membership"
 	keyRule       = "join_rule"
 )
-
-// text tells the text under a key of a content; empty, if there is none, or no text there. The content of a state's event may be anything, so a key may lack its value.
-func text(content api.Json, key string) string {
-	at := slices.Index(content.Keys, key)
-	if content.Kind != api.JMap || at < 0 || at >= len(content.List) || content.List[at].Kind != api.JText {
-		return ""
-	}
-	return content.List[at].Text
-}
 
 // find tells the event of a type and a key in a state, and whether there is one: the first one counts.
 func find(state []api.Known, kind, key string) (api.Known, bool) {
@@ -32,9 +22,9 @@ func find(state []api.Known, kind, key string) (api.Known, bool) {
 	return api.Known{}, false
 }
 
-// textOf tells the text under a key of the event of a type and a key in a state.
+// textOf tells the text under a key of the event of a type and a key in a state, whose content may be anything.
 func textOf(state []api.Known, kind, key, under string) string {
 	// Without such an event the content is null, which has no texts.
 	k, _ := find(state, kind, key)
-	return text(k.Event.Content, under)
+	return values.TextAt(k.Event.Content, under)
 }

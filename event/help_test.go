@@ -39,6 +39,10 @@ func null() api.Json { return api.Json{Kind: api.JNull} }
 
 func truth(n int64) api.Json { return api.Json{Kind: api.JBool, Int: n} }
 
+func number(n int64) api.Json { return api.Json{Kind: api.JInt, Int: n} }
+
+func text(s string) api.Json { return api.Json{Kind: api.JText, Text: s} }
+
 func list(l ...api.Json) api.Json { return api.Json{Kind: api.JList, List: l} }
 
 // table makes a map of keys and as many values.

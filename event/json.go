@@ -1,39 +1,30 @@
 package event
 
-import "agora/api"
+import (
+	"agora/api"
+	"agora/values"
+)
 
 // told tells a well shaped event's JSON, its content as it stands. It shares memory with the event.
 func told(e api.Event) api.Json {
 	j := api.Json{Kind: api.JMap}
-	put := func(name string, value api.Json) {
+	put := func(name string, one api.Json) {
 		j.Keys = append(j.Keys, name)
-		j.List = append(j.List, value)
+		j.List = append(j.List, one)
 	}
-	put("auth", texts(e.Auth))
+	put("auth", values.Texts(e.Auth))
 	put("content", e.Content)
-	put("depth", number(e.Depth))
-	put("hash", text(e.Hash))
+	put("depth", values.Number(e.Depth))
+	put("hash", values.Text(e.Hash))
 	if e.IsState {
-		put("key", text(e.Key))
+		put("key", values.Text(e.Key))
 	}
-	put("prev", texts(e.Prev))
-	put("room", text(e.Room))
-	put("sender", text(e.Sender))
+	put("prev", values.Texts(e.Prev))
+	put("room", values.Text(e.Room))
+	put("sender", values.Text(e.Sender))
 	put("sigs", tokens(e.Sigs))
-	put("ts", number(e.Ts))
-	put("type", text(e.Type))
-	return j
-}
-
-func text(s string) api.Json { return api.Json{Kind: api.JText, Text: s} }
-
-func number(n int64) api.Json { return api.Json{Kind: api.JInt, Int: n} }
-
-func texts(row []string) api.Json {
-	j := api.Json{Kind: api.JList}
-	for _, s := range row {
-		j.List = append(j.List, text(s))
-	}
+	put("ts", values.Number(e.Ts))
+	put("type", values.Text(e.Type))
 	return j
 }
 
@@ -41,7 +32,7 @@ func tokens(sigs []api.Sig) api.Json {
 	j := api.Json{Kind: api.JMap}
 	for _, sig := range sigs {
 		j.Keys = append(j.Keys, sig.Server)
-		j.List = append(j.List, text(sig.Token))
+		j.List = append(j.List, values.Text(sig.Token))
 	}
 	return j
 }

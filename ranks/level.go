@@ -1,8 +1,6 @@
 package ranks
 
 import (
-	"slices"
-
 	"agora/api"
 	"agora/power"
 )
@@ -16,15 +14,6 @@ const (
 
 // isOf tells whether an event is of a state, of a type, with the empty key.
 func isOf(e *api.Event, kind string) bool { return e.IsState && e.Type == kind && e.Key == "" }
-
-// membership tells the text under membership; empty, if there is none, or no text there. The content may be anything, so a key may lack its value.
-func membership(content api.Json) string {
-	at := slices.Index(content.Keys, keyMembership)
-	if content.Kind != api.JMap || at < 0 || at >= len(content.List) || content.List[at].Kind != api.JText {
-		return ""
-	}
-	return content.List[at].Text
-}
 
 // leansOn tells the first place that a place leans on whose event is of a type, with the empty key, and whether there is one.
 func leansOn(p api.Past, i int, kind string) (int, bool) {

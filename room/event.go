@@ -1,9 +1,8 @@
 package room
 
 import (
-	"slices"
-
 	"agora/api"
+	"agora/values"
 )
 
 // How an event says that its key is joined.
@@ -12,9 +11,8 @@ const (
 	join          = "join"
 )
 
-// joins tells whether the event of a place is a membership that is join. Its content is good: each key has its value, and nothing but a text has letters.
+// joins tells whether the event of a place is a membership that is join.
 func (r *Room) joins(i int) bool {
 	e := &r.past.Events[i]
-	at := slices.Index(e.Content.Keys, keyMembership)
-	return e.Type == api.TMember && at >= 0 && e.Content.List[at].Text == join
+	return e.Type == api.TMember && values.TextAt(e.Content, keyMembership) == join
 }
